@@ -1,0 +1,270 @@
+package tests
+
+import (
+	"math"
+	"reflect"
+	"slices"
+	"strings"
+	"testing"
+
+	"loop.example/g01168/impl"
+)
+
+// call is one call of a function, with what it returns, the code last.
+type call struct {
+	name    string
+	results []any
+}
+
+// callsOf calls every function that is given relations, words or numbers.
+func callsOf(r, s impl.Relation, words []string, list []int64, tuples [][]string, n int64, text string) []call {
+	var calls []call
+	add := func(name string, results ...any) { calls = append(calls, call{name, results}) }
+	two := func(a, b any) []any { return []any{a, b} }
+	pack := func(name string, results []any) { add(name, results...) }
+	add("CodeName", impl.CodeName(n))
+	add("ValidWord", impl.ValidWord(text))
+	add("ValidRelation", impl.ValidRelation(r))
+	add("SameRelation", impl.SameRelation(r, s))
+	add("RelationText", impl.RelationText(r))
+	columns, code := impl.ColumnsOf(words)
+	pack("ColumnsOf", two(columns, code))
+	back, code := impl.WordsOf(n, list)
+	pack("WordsOf", two(back, code))
+	letters, code := impl.ColumnText(n, n)
+	pack("ColumnText", two(letters, code))
+	read, code := impl.ReadRelation(text)
+	pack("ReadRelation", two(read, code))
+	yes, code := impl.Holds(r, words)
+	pack("Holds", two(yes, code))
+	tidy, code := impl.TidyRelation(r)
+	pack("TidyRelation", two(tidy, code))
+	yes, code = impl.AreEqual(r, s)
+	pack("AreEqual", two(yes, code))
+	first, code := impl.FirstUnlike(r, s)
+	pack("FirstUnlike", two(first, code))
+	first, code = impl.FirstTuple(r)
+	pack("FirstTuple", two(first, code))
+	all, code := impl.TuplesUpTo(r, n)
+	pack("TuplesUpTo", two(all, code))
+	count, code := impl.CountTuples(r, n)
+	pack("CountTuples", two(count, code))
+	yes, code = impl.IsEmpty(r)
+	pack("IsEmpty", two(yes, code))
+	yes, code = impl.IsFinite(r)
+	pack("IsFinite", two(yes, code))
+	count, code = impl.CountAll(r)
+	pack("CountAll", two(count, code))
+	of, code := impl.RelationOf(n, tuples)
+	pack("RelationOf", two(of, code))
+	return calls
+}
+
+// withRoom makes a list whose unused capacity can be looked at.
+func withRoom[T any](list []T, room ...T) []T {
+	return append(slices.Clone(list), room...)[:len(list)]
+}
+
+func roomOf[T any](list []T) []T {
+	return slices.Clone(list[:cap(list)])
+}
+
+func roomyRelation(r impl.Relation) impl.Relation {
+	s := copyOf(r)
+	s.Accept = withRoom(s.Accept, true, false, true)
+	for i, row := range s.Next {
+		s.Next[i] = withRoom(row, 77, 78, 79)
+	}
+	s.Next = withRoom(s.Next, []int64{80}, []int64{81})
+	return s
+}
+
+// everythingIn copies a relation with all unused capacity.
+func everythingIn(r impl.Relation) []any {
+	list := []any{r.Tapes, r.Start, roomOf(r.Accept)}
+	for _, row := range r.Next[:cap(r.Next)] {
+		list = append(list, roomOf(row))
+	}
+	return list
+}
+
+func TestArgumentsAreNotModified(t *testing.T) {
+	relations := append(someRelations(), wrongRelations()...)
+	for i, r := range relations {
+		one, two := roomyRelation(r), roomyRelation(relations[(i+1)%len(relations)])
+		words := withRoom([]string{"ab", "b"}, "unused", "room")
+		list := withRoom([]int64{3, 7}, 5, 6)
+		tuples := withRoom([][]string{withRoom([]string{"ab", "b"}, "unused"), withRoom([]string{"", "b"}, "unused")}, []string{"room"})
+		before := [][]any{everythingIn(one), everythingIn(two), {roomOf(words), roomOf(list), roomOf(tuples), roomOf(tuples[0]), roomOf(tuples[1])}}
+		before = slices.Clone(before)
+		callsOf(one, two, words, list, tuples, 2, "relation 1 1 0\nyes 0 0\n")
+		after := [][]any{everythingIn(one), everythingIn(two), {roomOf(words), roomOf(list), roomOf(tuples), roomOf(tuples[0]), roomOf(tuples[1])}}
+		if !reflect.DeepEqual(before, after) {
+			t.Fatalf("arguments %v became %v", before, after)
+		}
+	}
+}
+
+func TestEqualArgumentsHaveEqualResults(t *testing.T) {
+	relations := append(someRelations(), wrongRelations()...)
+	for i, r := range relations {
+		s := relations[(i+1)%len(relations)]
+		words := [][]string{nil, {"a"}, {"ab", "b"}, {"", "b", "aab"}}[i%4]
+		one := callsOf(r, s, words, []int64{1, 1}, [][]string{{"a", "b"}}, 2, "relation 1 1 0\nyes 0 0\n")
+		two := callsOf(roomyRelation(r), copyOf(s), slices.Clone(words), []int64{1, 1}, [][]string{{"a", "b"}}, 2, "relation 1 1 0\nyes 0 0\n")
+		if !reflect.DeepEqual(one, two) {
+			t.Fatalf("%v and then %v", one, two)
+		}
+	}
+}
+
+func TestNilAndEmptySlicesAreEquivalent(t *testing.T) {
+	one := callsOf(impl.Relation{}, impl.Relation{Tapes: 1}, nil, nil, nil, 1, "")
+	two := callsOf(impl.Relation{Accept: []bool{}, Next: [][]int64{}}, impl.Relation{Tapes: 1, Next: [][]int64{}}, []string{}, []int64{}, [][]string{}, 1, "")
+	equal(t, "results", one, two)
+	three := callsOf(evenA(), evenA(), nil, nil, [][]string{nil}, 1, "")
+	four := callsOf(evenA(), evenA(), []string{}, []int64{}, [][]string{{}}, 1, "")
+	equal(t, "results", three, four)
+}
+
+// spoil overwrites all that can be reached from slices, and what is behind them.
+func spoil(r impl.Relation) {
+	for i := range r.Accept {
+		r.Accept[i] = !r.Accept[i]
+	}
+	for i, row := range r.Next {
+		for c := range row {
+			row[c] = -7
+		}
+		for c := range row[:cap(row)] {
+			row[:cap(row)][c] = -7
+		}
+		r.Next[i] = nil
+	}
+}
+
+func TestResultsShareNoMemory(t *testing.T) {
+	for _, r := range someRelations() {
+		tidy, _ := impl.TidyRelation(r)
+		kept := copyOf(tidy)
+		again, _ := impl.TidyRelation(tidy)
+		spoil(again)
+		equal(t, "argument, when the result has been overwritten", tidy, kept)
+		third, _ := impl.TidyRelation(r)
+		equal(t, "further result", third, kept)
+		rowsAreApart(t, third)
+	}
+	text := "relation 1 2 0\nyes 1 0\nno 0 1\n"
+	one, _ := impl.ReadRelation(text)
+	rowsAreApart(t, one)
+	spoil(one)
+	two, _ := impl.ReadRelation(text)
+	equal(t, "the same text", two, evenA())
+	tuples := [][]string{{"a", "b"}, {"", "ab"}}
+	three, _ := impl.RelationOf(2, tuples)
+	rowsAreApart(t, three)
+	listed, _ := impl.TuplesUpTo(three, 2)
+	for i := range listed {
+		_ = append(listed[i], "x")
+		listed[i][0] = "x"
+		equal(t, "another tuple", listed[1-i][1] != "x", true)
+	}
+	again, _ := impl.TuplesUpTo(three, 2)
+	equal(t, "tuples", again, [][]string{{"a", "b"}, {"", "ab"}})
+}
+
+// rowsAreApart writes behind the end of each row, which must not be seen in another one.
+func rowsAreApart(t *testing.T, r impl.Relation) {
+	t.Helper()
+	kept := copyOf(r)
+	for i, row := range r.Next {
+		_ = append(row, -9, -9, -9)
+		old := row[0]
+		row[0] = -9
+		for j := range r.Next {
+			if i != j && !slices.Equal(r.Next[j], kept.Next[j]) {
+				t.Fatalf("rows %d and %d share memory", i, j)
+			}
+		}
+		row[0] = old
+	}
+}
+
+func TestInvalidRelationsAreToldFirst(t *testing.T) {
+	for _, r := range wrongRelations() {
+		for _, c := range callsOf(r, everything(2), []string{"a", "c"}, nil, nil, -5, "") {
+			switch c.name {
+			case "Holds", "TidyRelation", "AreEqual", "FirstUnlike", "FirstTuple", "TuplesUpTo", "CountTuples", "IsEmpty", "IsFinite", "CountAll":
+				equal(t, c.name, c.results[1], int64(impl.ErrInvalid))
+			}
+		}
+		_, code := impl.AreEqual(everything(2), r)
+		equal(t, "AreEqual, second", code, int64(impl.ErrInvalid))
+		_, code = impl.FirstUnlike(everything(2), r)
+		equal(t, "FirstUnlike, second", code, int64(impl.ErrInvalid))
+	}
+}
+
+// Whatever the arguments are, a result with an error is empty.
+func TestResultsWithErrorsAreZero(t *testing.T) {
+	relations := append(someRelations(), wrongRelations()...)
+	texts := []string{"", "relation", "relation 1 1 0\nyes 0 0\n", strings.Repeat("relation 1 1 0\n", 5000)}
+	numbers := []int64{0, 1, 2, 3, 4, -1, impl.MaxLength, impl.MaxLength + 1, math.MaxInt64, math.MinInt64}
+	for i, r := range relations {
+		n := numbers[i%len(numbers)]
+		s := relations[(i*7+3)%len(relations)]
+		for _, c := range callsOf(r, s, []string{"a", "b"}, []int64{n, 1}, [][]string{{"a", "b"}}, n, texts[i%len(texts)]) {
+			if len(c.results) == 2 && c.results[1] != int64(impl.OK) && !isZero(c.results[0]) {
+				t.Errorf("%s returns %v", c.name, c.results)
+			}
+		}
+	}
+}
+
+func isZero(result any) bool {
+	v := reflect.ValueOf(result)
+	return v.IsZero() || v.Kind() == reflect.Slice && v.Len() == 0
+}
+
+func TestLargeArguments(t *testing.T) {
+	const many = 1000000
+	words := slices.Repeat([]string{"a"}, many)
+	tuples := slices.Repeat([][]string{nil}, many)
+	list := make([]int64, many)
+	rows := slices.Repeat([][]int64{{0, 0}}, many/2)
+	large := impl.Relation{Tapes: 1, Accept: make([]bool, many/2), Next: rows}
+	wide := impl.Relation{Tapes: 1, Accept: []bool{true}, Next: [][]int64{list}}
+	for _, r := range []impl.Relation{large, wide} {
+		for _, text := range []string{strings.Repeat("a", many), strings.Repeat("\n", many), strings.Repeat("\n", impl.MaxText), strings.Repeat(" ", impl.MaxText)} {
+			callsOf(r, r, words, list, tuples, 1, text)
+			callsOf(r, r, []string{text}, list, [][]string{words}, 1, text)
+		}
+	}
+	list1, code := impl.ColumnsOf(words)
+	equal(t, "too many words", code, int64(impl.ErrRange))
+	equal(t, "too many words", len(list1), 0)
+	_, code = impl.RelationOf(1, append(tuples, []string{"c"}))
+	equal(t, "too many tuples, with a text that is no word", code, int64(impl.ErrInvalid))
+}
+
+// The largest relations that are valid, with all functions.
+func TestLargestRelations(t *testing.T) {
+	d := dice(31)
+	for tapes := int64(1); tapes <= 3; tapes++ {
+		r, s := randomRelation(&d, tapes, impl.MaxStates), randomRelation(&d, tapes, impl.MaxStates)
+		slow := randomRelation(&d, tapes, impl.MaxStates)
+		for i := range slow.Next {
+			slow.Accept[i] = i == 0
+			for c := range slow.Next[i] {
+				slow.Next[i][c] = int64((i + 1) % impl.MaxStates)
+			}
+		}
+		for _, c := range callsOf(r, s, []string{"a", "b", ""}[:tapes], nil, nil, impl.MaxLength, "") {
+			if c.name == "IsFinite" || c.name == "AreEqual" {
+				equal(t, c.name, c.results, []any{false, int64(impl.OK)})
+			}
+		}
+		callsOf(slow, slow, nil, nil, nil, impl.MaxLength, "")
+		callsOf(slow, r, nil, nil, nil, impl.MaxLength, "")
+	}
+}
