@@ -385,10 +385,12 @@ func rightPart(r Relation) Relation {
 }
 
 // classesOf returns for each state of an automaton the number of its class:
-// states that take the same lists of columns are in one class.
-func classesOf(r Relation) []int32 {
-	var refine func(classes []int32, count int) []int32
-	refine = func(classes []int32, count int) []int32 {
+// states that take the same lists of columns are in one class. It returns false
+// as soon as there are more than most classes, of which there are never fewer
+// later on.
+func classesOf(r Relation, most int) ([]int32, bool) {
+	var refine func(classes []int32, count int) ([]int32, bool)
+	refine = func(classes []int32, count int) ([]int32, bool) {
 		numbers := map[signature]int32{}
 		finer := make([]int32, len(classes))
 		for s, row := range r.Next {
@@ -403,8 +405,8 @@ func classesOf(r Relation) []int32 {
 			}
 			finer[s] = number
 		}
-		if len(numbers) == count {
-			return finer
+		if len(numbers) == count || len(numbers) > most {
+			return finer, len(numbers) <= most
 		}
 		return refine(finer, len(numbers))
 	}
@@ -429,7 +431,11 @@ func TidyRelation(r Relation) (Relation, int64) {
 // MaxStates states.
 func tidied(r Relation) (Relation, int64) {
 	right := rightPart(r)
-	classes := classesOf(right)
+	// The state to which lists that are not right lead may not be met.
+	classes, few := classesOf(right, MaxStates+1)
+	if !few {
+		return Relation{}, ErrLimit
+	}
 	numbers := make([]int64, len(classes))
 	var states []int64
 	meet := func(state int64) int64 {
@@ -458,6 +464,12 @@ func tidied(r Relation) (Relation, int64) {
 // firstApart returns the columns of the first tuple that only one of two
 // automata with the same tapes takes, and whether there is one.
 func firstApart(r, s Relation) ([]int64, bool) {
+	return firstWith(r, s, func(left, right bool) bool { return left != right })
+}
+
+// firstWith returns the columns of the first tuple for which wanted is true of
+// what two automata with the same tapes say of it, and whether there is one.
+func firstWith(r, s Relation, wanted func(left, right bool) bool) ([]int64, bool) {
 	r, s = rightPart(r), rightPart(s)
 	met := make([]bool, len(r.Next)*len(s.Next))
 	var steps []pairStep
@@ -472,7 +484,7 @@ func firstApart(r, s Relation) ([]int64, bool) {
 	// Pairs are met in the order of the first lists that lead to them.
 	for i := 0; i < len(steps); i++ {
 		p := steps[i]
-		if r.Accept[p.left] != s.Accept[p.right] {
+		if wanted(r.Accept[p.left], s.Accept[p.right]) {
 			return columnsBack(steps, int64(i)), true
 		}
 		for c, next := range r.Next[p.left] {

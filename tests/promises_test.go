@@ -57,6 +57,40 @@ func callsOf(r, s impl.Relation, words []string, list []int64, tuples [][]string
 	pack("CountAll", two(count, code))
 	of, code := impl.RelationOf(n, tuples)
 	pack("RelationOf", two(of, code))
+	return append(calls, callsOfChapter2(r, s, list, n, text)...)
+}
+
+func callsOfChapter2(r, s impl.Relation, list []int64, n int64, text string) []call {
+	var calls []call
+	add := func(name string) func(r impl.Relation, code int64) {
+		return func(r impl.Relation, code int64) { calls = append(calls, call{name, []any{r, code}}) }
+	}
+	add("OppositeRelation")(impl.OppositeRelation(r))
+	add("BothRelations")(impl.BothRelations(r, s))
+	add("EitherRelation")(impl.EitherRelation(r, s))
+	add("WithoutRelation")(impl.WithoutRelation(r, s))
+	yes, code := impl.IsContained(r, s)
+	calls = append(calls, call{"IsContained", []any{yes, code}})
+	add("AddTape")(impl.AddTape(r, n))
+	add("MoveTapes")(impl.MoveTapes(r, list))
+	for _, order := range [][]int64{{0}, {1, 0}, {2, 0, 1}} {
+		add("MoveTapes")(impl.MoveTapes(r, order))
+	}
+	add("SomeOn")(impl.SomeOn(r, n-1))
+	add("AllOn")(impl.AllOn(r, n-1))
+	add("ManyOn")(impl.ManyOn(r, n-1))
+	add("FixTape")(impl.FixTape(r, n-1, text))
+	add("FixTape")(impl.FixTape(r, n-1, "ab"))
+	add("SameOn")(impl.SameOn(r, n-1, n-2))
+	add("ProductOf")(impl.ProductOf(r, s))
+	add("ComposeRelations")(impl.ComposeRelations(r, s))
+	add("InverseRelation")(impl.InverseRelation(r))
+	add("EqualWords")(impl.EqualWords(), impl.OK)
+	add("IsPrefixRelation")(impl.IsPrefixRelation(), impl.OK)
+	add("LengthRelation")(impl.LengthRelation(n))
+	add("OrderRelation")(impl.OrderRelation(), impl.OK)
+	add("SuccessorRelation")(impl.SuccessorRelation(), impl.OK)
+	add("AllTuples")(impl.AllTuples(n))
 	return calls
 }
 
@@ -173,6 +207,26 @@ func TestResultsShareNoMemory(t *testing.T) {
 	equal(t, "tuples", again, [][]string{{"a", "b"}, {"", "ab"}})
 }
 
+func TestResultsOfChapter2ShareNoMemory(t *testing.T) {
+	for _, r := range []impl.Relation{impl.OrderRelation(), evenRing(2, 3), ring(2), everything(2), nothing(2)} {
+		kept := copyOf(r)
+		made := func() []call { return callsOfChapter2(r, r, []int64{0, 1}, 2, "ab") }
+		first, second := made(), made()
+		for i, c := range first {
+			if relation, ok := c.results[0].(impl.Relation); ok && len(relation.Next) > 0 {
+				rowsAreApart(t, relation)
+				spoil(relation)
+			}
+			for j := range i {
+				first[j].results = second[j].results
+			}
+			equal(t, c.name+": argument", r, kept)
+			equal(t, c.name+": another result", first[i+1:], second[i+1:])
+		}
+		equal(t, "later results", made(), second)
+	}
+}
+
 // rowsAreApart writes behind the end of each row, which must not be seen in another one.
 func rowsAreApart(t *testing.T, r impl.Relation) {
 	t.Helper()
@@ -194,7 +248,9 @@ func TestInvalidRelationsAreToldFirst(t *testing.T) {
 	for _, r := range wrongRelations() {
 		for _, c := range callsOf(r, everything(2), []string{"a", "c"}, nil, nil, -5, "") {
 			switch c.name {
-			case "Holds", "TidyRelation", "AreEqual", "FirstUnlike", "FirstTuple", "TuplesUpTo", "CountTuples", "IsEmpty", "IsFinite", "CountAll":
+			case "Holds", "TidyRelation", "AreEqual", "FirstUnlike", "FirstTuple", "TuplesUpTo", "CountTuples", "IsEmpty", "IsFinite", "CountAll",
+				"OppositeRelation", "BothRelations", "EitherRelation", "WithoutRelation", "IsContained", "AddTape", "MoveTapes", "SomeOn", "AllOn", "ManyOn",
+				"FixTape", "SameOn", "ProductOf", "ComposeRelations", "InverseRelation":
 				equal(t, c.name, c.results[1], int64(impl.ErrInvalid))
 			}
 		}
@@ -202,6 +258,11 @@ func TestInvalidRelationsAreToldFirst(t *testing.T) {
 		equal(t, "AreEqual, second", code, int64(impl.ErrInvalid))
 		_, code = impl.FirstUnlike(everything(2), r)
 		equal(t, "FirstUnlike, second", code, int64(impl.ErrInvalid))
+		for _, join := range []func(r, s impl.Relation) (impl.Relation, int64){
+			impl.BothRelations, impl.EitherRelation, impl.WithoutRelation, contained, impl.ProductOf, impl.ComposeRelations,
+		} {
+			equal(t, "second of two", codeOf(join(everything(3), r)), int64(impl.ErrInvalid))
+		}
 	}
 }
 
