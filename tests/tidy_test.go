@@ -297,6 +297,35 @@ func TestTidyRelationLimits(t *testing.T) {
 	equal(t, "many states", code, int64(impl.ErrLimit))
 }
 
+// circle takes the words of one tape whose length n divides. All of its n states
+// lead to an accepting one.
+func circle(n int64) impl.Relation {
+	r := impl.Relation{Tapes: 1, Accept: make([]bool, n)}
+	r.Accept[0] = true
+	for s := range n {
+		r.Next = append(r.Next, []int64{(s + 1) % n, (s + 1) % n})
+	}
+	return r
+}
+
+func TestTidyRelationLimitsWithoutDeadStates(t *testing.T) {
+	tidy, code := impl.TidyRelation(circle(impl.MaxStates))
+	equal(t, "150 states", code, int64(impl.OK))
+	equal(t, "150 states", tidy, circle(impl.MaxStates))
+	opposite, code := impl.OppositeRelation(circle(impl.MaxStates))
+	isMade(t, "opposite", opposite, code, naiveOpposite(circle(impl.MaxStates)), 0)
+	for _, c := range []struct {
+		p, q int64
+		size int
+	}{{6, 25, impl.MaxStates}, {8, 19, impl.MaxStates + 2}} {
+		for _, j := range joinings() {
+			got, code := j.join(circle(c.p), circle(c.q))
+			want := naivePairs(circle(c.p), circle(c.q), j.take)
+			equal(t, j.name, isMade(t, j.name, got, code, want, len(want.Next)), c.size)
+		}
+	}
+}
+
 // What is too large for a tidy relation can be looked at all the same.
 func TestLargeRelationsAreComparedAndListed(t *testing.T) {
 	large := ring(148)
