@@ -430,11 +430,21 @@ func TidyRelation(r Relation) (Relation, int64) {
 // tidied returns the tidy relation of an automaton, which may have more than
 // MaxStates states.
 func tidied(r Relation) (Relation, int64) {
-	right := rightPart(r)
-	// The state to which lists that are not right lead may not be met.
-	classes, few := classesOf(right, MaxStates+1)
+	tidy, few := tidiedTo(r, MaxStates)
 	if !few {
 		return Relation{}, ErrLimit
+	}
+	return tidy, OK
+}
+
+// tidiedTo returns the tidy relation of an automaton, and whether it has at most
+// so many states.
+func tidiedTo(r Relation, most int) (Relation, bool) {
+	right := rightPart(r)
+	// The state to which lists that are not right lead may not be met.
+	classes, few := classesOf(right, most+1)
+	if !few {
+		return Relation{}, false
 	}
 	numbers := make([]int64, len(classes))
 	var states []int64
@@ -455,10 +465,10 @@ func tidied(r Relation) (Relation, int64) {
 		tidy.Accept = append(tidy.Accept, right.Accept[states[i]])
 		tidy.Next = append(tidy.Next, row)
 	}
-	if len(states) > MaxStates {
-		return Relation{}, ErrLimit
+	if len(states) > most {
+		return Relation{}, false
 	}
-	return tidy, OK
+	return tidy, true
 }
 
 // firstApart returns the columns of the first tuple that only one of two

@@ -21,14 +21,9 @@ func naiveProduct(r, s impl.Relation) (impl.Relation, impl.Relation) {
 	return left, right
 }
 
-// productSize is the number of pairs on the way, if both relations are small
-// enough with their tapes added, or one that is too large.
+// productSize is the number of pairs on the way.
 func productSize(left, right impl.Relation) int {
-	one, two := tidySize(left), tidySize(right)
-	if one > impl.MaxStates || two > impl.MaxStates {
-		return impl.MaxRaw + 1
-	}
-	return one * two
+	return tidySize(left) * tidySize(right)
 }
 
 func TestProductOf(t *testing.T) {
@@ -66,8 +61,16 @@ func TestProductOfLimits(t *testing.T) {
 		{lasso(1, 37), lasso(1, 5), impl.MaxRaw + 1, impl.ErrLimit},
 		{lasso(5, 1), lasso(37, 1), impl.MaxRaw + 1, impl.ErrLimit},
 		{lasso(0, 74), nothing(1), 150, impl.OK},
-		{lasso(1, 74), nothing(1), impl.MaxRaw + 1, impl.ErrLimit},
-		{nothing(1), lasso(1, 74), impl.MaxRaw + 1, impl.ErrLimit},
+		{lasso(1, 74), nothing(1), 151, impl.OK},
+		{nothing(1), lasso(1, 74), 151, impl.OK},
+		{turning(1, 75), nothing(1), 152, impl.OK},
+		{nothing(1), turning(1, 75), 152, impl.OK},
+		{turning(1, 75), everything(1), 608, impl.ErrLimit},
+		{turning(1, 150), nothing(2), 604, impl.OK},
+		{nothing(2), turning(1, 150), 604, impl.OK},
+		{turning(2, 150), nothing(1), 902, impl.OK},
+		{nothing(1), turning(2, 150), 902, impl.OK},
+		{turning(2, 150), everything(1), 902 * 8, impl.ErrLimit},
 	} {
 		left, right := naiveProduct(c.r, c.s)
 		equal(t, "pairs", productSize(left, right), c.raw)
@@ -190,17 +193,25 @@ func pairRelations() []impl.Relation {
 }
 
 // isComposed compares a composition with the steps of which the document tells.
+// It returns the number of the step that fails, or one more than the last one.
 func isComposed(t *testing.T, got impl.Relation, code int64, r, s impl.Relation) int {
 	t.Helper()
-	right, fault := impl.AddTape(s, 0)
-	if fault != impl.OK {
+	left, right := naiveAdd(r, 2), naiveAdd(s, 0)
+	pairs := naivePairs(left, right, takesBoth)
+	if tidySize(left)*tidySize(right) > impl.MaxRaw {
 		isLimit(t, "ComposeRelations", got, code)
 		return 0
 	}
-	return isStepped(t, "ComposeRelations", got, code, r,
-		func(r impl.Relation) (impl.Relation, int64) { return impl.AddTape(r, 2) },
-		func(r impl.Relation) (impl.Relation, int64) { return impl.BothRelations(r, right) },
-		someOn(1))
+	if tidySize(pairs) > impl.MaxStates {
+		isLimit(t, "ComposeRelations", got, code)
+		return 1
+	}
+	sets := naiveSets(naiveTidy(pairs), 1)
+	isMade(t, "ComposeRelations", got, code, sets, len(sets.Accept))
+	if code != impl.OK {
+		return 2
+	}
+	return 3
 }
 
 func TestComposeRelations(t *testing.T) {
@@ -295,6 +306,14 @@ func TestLimitsOfCompositions(t *testing.T) {
 				got, code := impl.ComposeRelations(r, s)
 				seen[isComposed(t, got, code, r, s)]++
 			}
+		}
+	}
+	for _, r := range []impl.Relation{turning(2, 25), turning(2, 30), turning(2, 142), turning(2, 143), ring(148), evenRing(2, 60), counted(5, 12, 13), branches(7, 31, 32)} {
+		for _, s := range []impl.Relation{nothing(2), impl.EqualWords(), everything(2), naiveMove(branches(7, 31, 32), []int64{1, 0})} {
+			got, code := impl.ComposeRelations(r, s)
+			seen[isComposed(t, got, code, r, s)]++
+			got, code = impl.ComposeRelations(s, r)
+			seen[isComposed(t, got, code, s, r)]++
 		}
 	}
 	for _, at := range []int{0, 1, 3} {

@@ -212,76 +212,96 @@ func keyOf(set []bool) string {
 	return string(key)
 }
 
-// tidySize returns how many states the tidy relation of an automaton has.
-func tidySize(r impl.Relation) int {
+// placesOf returns an automaton with a state for each state of another one and
+// the tapes that have ended, as they are met, and one, the last one, to which
+// lists lead that are not right, if there are any.
+func placesOf(r impl.Relation) impl.Relation {
 	list := []pair{{p: r.Start}}
-	numbers := map[pair]uint64{list[0]: 0}
-	const dead = ^uint64(0)
+	numbers := map[pair]int64{list[0]: 0}
+	const dead = -1
 	isMet := false
-	var rows [][]uint64
+	places := impl.Relation{Tapes: r.Tapes}
 	for i := 0; i < len(list); i++ {
-		var row []uint64
-		for c := range columns(r.Tapes) {
-			now := endedBy(r.Tapes, c)
+		row := make([]int64, columns(r.Tapes))
+		for c := range row {
+			now := endedBy(r.Tapes, int64(c))
 			if !goesOn(list[i].ended, now) {
-				row, isMet = append(row, dead), true
+				row[c], isMet = dead, true
 				continue
 			}
 			to := pair{p: r.Next[list[i].p][c], ended: now}
 			number, met := numbers[to]
 			if !met {
-				number = uint64(len(list))
+				number = int64(len(list))
 				numbers[to] = number
 				list = append(list, to)
 			}
-			row = append(row, number)
+			row[c] = number
 		}
-		rows = append(rows, row)
+		places.Accept = append(places.Accept, r.Accept[list[i].p])
+		places.Next = append(places.Next, row)
 	}
-	classes := make([]uint64, len(list)+1)
-	for i, at := range list {
-		if r.Accept[at.p] {
-			classes[i] = 1
+	if isMet {
+		places.Accept = append(places.Accept, false)
+		places.Next = append(places.Next, slices.Repeat([]int64{dead}, int(columns(r.Tapes))))
+	}
+	for _, row := range places.Next {
+		for c, next := range row {
+			if next == dead {
+				row[c] = int64(len(list))
+			}
 		}
 	}
-	return refined(rows, classes, isMet)
+	return places
 }
 
-// refined counts the classes of the rows, and of a further state that takes
-// nothing, which counts if it is met.
-func refined(rows [][]uint64, classes []uint64, isMet bool) int {
-	last := len(rows)
-	for count := 0; ; {
-		numbers := map[string]uint64{}
-		finer := make([]uint64, last+1)
-		numberOf := func(key []byte) uint64 {
+// classesOf numbers the classes of states that take the same lists of columns.
+func classesOf(r impl.Relation) (classes []int64, count int) {
+	classes = make([]int64, len(r.Next))
+	for s, accepts := range r.Accept {
+		if accepts {
+			classes[s] = 1
+		}
+	}
+	for {
+		numbers := map[string]int64{}
+		finer := make([]int64, len(r.Next))
+		for s, row := range r.Next {
+			key := binary.AppendVarint(nil, classes[s])
+			for _, next := range row {
+				key = binary.AppendVarint(key, classes[next])
+			}
 			number, known := numbers[string(key)]
 			if !known {
-				number = uint64(len(numbers))
+				number = int64(len(numbers))
 				numbers[string(key)] = number
 			}
-			return number
-		}
-		for s, row := range rows {
-			key := binary.AppendUvarint(nil, classes[s])
-			for _, next := range row {
-				key = binary.AppendUvarint(key, classes[min(next, uint64(last))])
-			}
-			finer[s] = numberOf(key)
-		}
-		if isMet {
-			key := binary.AppendUvarint(nil, classes[last])
-			for range rows[0] {
-				key = binary.AppendUvarint(key, classes[last])
-			}
-			finer[last] = numberOf(key)
+			finer[s] = number
 		}
 		if len(numbers) == count {
-			return count
+			return finer, count
 		}
-		count, classes = len(numbers), finer
+		classes, count = finer, len(numbers)
 	}
 }
+
+// naiveTidy returns a tidy automaton of any size, but for the order of its states.
+func naiveTidy(r impl.Relation) impl.Relation {
+	places := placesOf(r)
+	classes, count := classesOf(places)
+	tidy := impl.Relation{Tapes: r.Tapes, Accept: make([]bool, count), Next: make([][]int64, count)}
+	for s, class := range classes {
+		row := make([]int64, columns(r.Tapes))
+		for c, next := range places.Next[s] {
+			row[c] = classes[next]
+		}
+		tidy.Accept[class], tidy.Next[class] = places.Accept[s], row
+	}
+	return tidy
+}
+
+// tidySize returns how many states the tidy relation of an automaton has.
+func tidySize(r impl.Relation) int { return len(naiveTidy(r).Next) }
 
 // isMade compares what a function has returned with an automaton of any size,
 // on the way to which there were others, the greatest one with so many states.

@@ -87,19 +87,30 @@ func relationsWithTapes() []impl.Relation {
 	return list
 }
 
+// isSomeOn compares SomeOn with the automaton of sets of tidy states. It returns
+// the number of these, and of the states that come out.
+func isSomeOn(t *testing.T, got impl.Relation, code int64, r impl.Relation, tape int64) (sets, size int) {
+	t.Helper()
+	automaton := naiveSets(naiveTidy(r), tape)
+	sets = len(automaton.Accept)
+	return sets, isMade(t, "SomeOn", got, code, automaton, sets)
+}
+
+// isAllOn does so for AllOn.
+func isAllOn(t *testing.T, got impl.Relation, code int64, r impl.Relation, tape int64) (sets, size int) {
+	t.Helper()
+	automaton := naiveSets(naiveTidy(naiveOpposite(r)), tape)
+	sets = len(automaton.Accept)
+	return sets, isMade(t, "AllOn", got, code, naiveOpposite(automaton), sets)
+}
+
 func TestSomeOn(t *testing.T) {
 	seen := map[int64]int{}
 	for _, r := range relationsWithTapes() {
-		tidy, code := impl.TidyRelation(r)
 		for tape := range r.Tapes {
-			if code != impl.OK {
-				equal(t, "a relation that is not tidied", codeOf(impl.SomeOn(r, tape)), int64(impl.ErrLimit))
-				continue
-			}
-			sets := naiveSets(tidy, tape)
 			got, code := impl.SomeOn(r, tape)
 			seen[code]++
-			isMade(t, "SomeOn", got, code, sets, len(sets.Accept))
+			isSomeOn(t, got, code, r, tape)
 			if code != impl.OK {
 				continue
 			}
@@ -121,7 +132,7 @@ func TestAllOn(t *testing.T) {
 		for tape := range r.Tapes {
 			got, code := impl.AllOn(r, tape)
 			seen[code]++
-			isStepped(t, "AllOn", got, code, r, impl.OppositeRelation, someOn(tape), impl.OppositeRelation)
+			isAllOn(t, got, code, r, tape)
 			if code != impl.OK {
 				continue
 			}
@@ -271,14 +282,12 @@ func TestSomeOnLimitsOfSets(t *testing.T) {
 			if tape == 0 {
 				r = naiveMove(r, []int64{1, 0})
 			}
-			tidy := made(t)(impl.TidyRelation(r))
 			if 2*len(r.Next) < impl.MaxStates {
 				r = padded(r)
 			}
-			sets := naiveSets(tidy, tape)
-			equal(t, "sets", len(sets.Accept), c.sets)
 			got, code := impl.SomeOn(r, tape)
-			isMade(t, "SomeOn", got, code, sets, c.sets)
+			sets, _ := isSomeOn(t, got, code, r, tape)
+			equal(t, "sets", sets, c.sets)
 			equal(t, "code", code == impl.OK, c.sets <= impl.MaxRaw)
 			if code == impl.OK {
 				equal(t, "all words of a", got, lasso(0, 1))
@@ -311,39 +320,86 @@ func TestSomeOnLimitsOfTheResult(t *testing.T) {
 	for before := range int64(8) {
 		for _, pq := range [][2]int64{{4, 37}, {11, 13}, {12, 13}, {2, 3}} {
 			r := counted(before, pq[0], pq[1])
-			tidy := made(t)(impl.TidyRelation(r))
-			sets := naiveSets(tidy, 1)
 			got, code := impl.SomeOn(r, 1)
-			seen[isMade(t, "SomeOn", got, code, sets, len(sets.Accept))] = true
+			_, size := isSomeOn(t, got, code, r, 1)
+			seen[size] = true
 			opposite := naiveOpposite(r)
 			got, code = impl.AllOn(opposite, 1)
-			isStepped(t, "AllOn", got, code, opposite, impl.OppositeRelation, someOn(1), impl.OppositeRelation)
+			isAllOn(t, got, code, opposite, 1)
 		}
 	}
 	equal(t, "MaxStates has been reached", seen[impl.MaxStates], true)
 	equal(t, "and exceeded by one", seen[impl.MaxStates+1], true)
 }
 
-// AllOn fails if one of both opposites is too large, or if the sets are too many.
+// turning takes the tuples of which the number of columns is a multiple of n. Its
+// tidy relation has n states for each list of tapes that may have ended, and one more.
+func turning(tapes, n int64) impl.Relation {
+	accept := make([]bool, n)
+	accept[0] = true
+	return madeBy(tapes, accept, func(state int64, digits []int64) int64 { return (state + 1) % n })
+}
+
+// A tidy relation on the way may have more than MaxStates states, and so may an
+// opposite: only sets, and what comes out, are limited.
+func TestWordsOnTapesOfLargeRelations(t *testing.T) {
+	for _, r := range []impl.Relation{turning(2, 49), turning(2, 50), turning(2, 150), turning(3, 21), turning(3, 22), turning(3, 30), ring(147), ring(148), ring(150)} {
+		for tape := range r.Tapes {
+			got, code := impl.SomeOn(r, tape)
+			isSomeOn(t, got, code, r, tape)
+			got, code = impl.AllOn(r, tape)
+			isAllOn(t, got, code, r, tape)
+		}
+	}
+	equal(t, "words for which there is one", made(t)(impl.SomeOn(turning(2, 150), 0)), everything(1))
+	equal(t, "words for which there are all", made(t)(impl.AllOn(turning(2, 150), 1)), nothing(1))
+	equal(t, "pairs for which there is one", made(t)(impl.SomeOn(turning(3, 150), 2)), made(t)(impl.AllTuples(2)))
+	equal(t, "pairs for which there are all", made(t)(impl.AllOn(turning(3, 150), 0)), nothing(2))
+	equal(t, "states of a tidy relation", tidySize(turning(3, 150)), 7*150+1)
+}
+
+// The relation that comes out of AllOn is limited, its opposite is not.
 func TestAllOnLimits(t *testing.T) {
-	seen := map[int]int{}
-	for n := int64(135); n <= 148; n++ {
-		for _, r := range []impl.Relation{evenRing(3, n), naiveOpposite(evenRing(3, n)), evenRing(2, n), naiveOpposite(evenRing(2, n))} {
-			got, code := impl.AllOn(r, 0)
-			seen[isStepped(t, "AllOn", got, code, r, impl.OppositeRelation, someOn(0), impl.OppositeRelation)]++
+	seen := map[int]bool{}
+	for n := int64(144); n <= 149; n++ {
+		some := evenRing(2, n)
+		for _, r := range []impl.Relation{some, naiveOpposite(some)} {
+			for tape := range int64(3) {
+				added := naiveAdd(r, tape)
+				got, code := impl.AllOn(added, tape)
+				_, size := isAllOn(t, got, code, added, tape)
+				equal(t, "states", size, tidySize(r))
+				seen[size] = true
+			}
 		}
+		equal(t, "its opposite has more states", tidySize(naiveOpposite(some)), tidySize(some)+2)
 	}
-	for before := range int64(8) {
-		for _, r := range []impl.Relation{branches(before, 31, 32), counted(before, 31, 32)} {
-			opposite := naiveOpposite(r)
-			got, code := impl.AllOn(opposite, 1)
-			seen[isStepped(t, "AllOn", got, code, opposite, impl.OppositeRelation, someOn(1), impl.OppositeRelation)]++
+	for size := impl.MaxStates - 2; size <= impl.MaxStates+1; size++ {
+		equal(t, "so many states would come out", seen[size], true)
+	}
+	for before := int64(6); before < 8; before++ {
+		opposite := naiveOpposite(branches(before, 31, 32))
+		got, code := impl.AllOn(opposite, 1)
+		sets, _ := isAllOn(t, got, code, opposite, 1)
+		equal(t, "sets", sets, impl.MaxRaw-6+int(before))
+		equal(t, "code", code == impl.OK, before == 6)
+	}
+}
+
+// ends takes two words, the second one shorter, if there is a "b" in the first one
+// where the second one ends, and a multiple of n letters from there on.
+func ends(n int64) impl.Relation {
+	accept := make([]bool, n+2)
+	accept[n] = true
+	return madeBy(2, accept, func(state int64, digits []int64) int64 {
+		switch {
+		case digits[0] == 2 || state == 0 && digits[1] == 2 && digits[0] == 0:
+			return n + 1
+		case state == 0 && digits[1] != 2 || state == n+1:
+			return state
 		}
-	}
-	for step := range 2 {
-		equal(t, "this step has failed", seen[step] > 0, true)
-	}
-	equal(t, "no step has failed", seen[3] > 0, true)
+		return state%n + 1
+	})
 }
 
 // lots takes pairs of a word of n times "a" and of any word that begins with it.
@@ -374,6 +430,7 @@ func TestManyOnLimits(t *testing.T) {
 	for before := range int64(8) {
 		list = append(list, counted(before, 12, 13))
 	}
+	list = append(list, ends(5), ends(6), ends(7))
 	for _, r := range list {
 		got, code := impl.ManyOn(r, 1)
 		seen[isStepped(t, "ManyOn", got, code, r, manyOn(1)...)]++
@@ -400,7 +457,7 @@ func TestErrorsOfWordsOnATape(t *testing.T) {
 				want := int64(impl.OK)
 				if r.Tapes == 1 || r.Tapes > c.most || tape < 0 || tape >= r.Tapes {
 					want = impl.ErrRange
-				} else if len(r.Next) == 148 {
+				} else if len(r.Next) == 148 && c.name == "ManyOn" {
 					want = impl.ErrLimit
 				}
 				got, code := c.some(r, tape)

@@ -158,16 +158,65 @@ func TestLimitsOfWhatIsPutTogether(t *testing.T) {
 	}
 }
 
-// A relation whose tidy relation is too large cannot be put together with another one.
-func TestRelationsThatAreNotTidied(t *testing.T) {
-	for _, j := range joinings() {
-		got, code := j.join(ring(148), nothing(2))
-		isLimit(t, j.name, got, code)
-		got, code = j.join(nothing(2), ring(148))
-		isLimit(t, j.name, got, code)
-		got, code = j.join(ring(147), nothing(2))
-		isMade(t, j.name, got, code, naivePairs(ring(147), nothing(2), j.take), 150)
+// Pairs are limited, and what comes out of them, but not the states of a tidy
+// relation on the way.
+func TestPuttingLargeRelationsTogether(t *testing.T) {
+	seen := map[int64]int{}
+	large := []impl.Relation{ring(147), ring(148), turning(2, 49), turning(2, 50), turning(2, 83), turning(2, 150), evenRing(2, 149)}
+	for _, r := range large {
+		for _, s := range []impl.Relation{nothing(2), everything(2), impl.EqualWords(), evenRing(2, 2), r} {
+			raw := tidySize(r) * tidySize(s)
+			for _, j := range joinings() {
+				got, code := j.join(r, s)
+				isMade(t, j.name, got, code, naivePairs(r, s, j.take), raw)
+				got, code = j.join(s, r)
+				isMade(t, j.name, got, code, naivePairs(s, r, j.take), raw)
+				seen[code]++
+			}
+		}
 	}
+	if seen[impl.OK] < 30 || seen[impl.ErrLimit] < 30 {
+		t.Errorf("codes %v, so the test tells little", seen)
+	}
+}
+
+// A tidy relation may have so many states that there are too many pairs with one
+// state alone.
+func TestLimitsOfPairsOfLargeRelations(t *testing.T) {
+	for _, c := range []struct {
+		r   impl.Relation
+		raw int
+	}{
+		{turning(3, 142), 995},
+		{withStates(142, 5), impl.MaxRaw},
+		{withStates(142, 6), impl.MaxRaw + 1},
+		{turning(3, 143), 1002},
+		{turning(3, 150), 1051},
+	} {
+		equal(t, "pairs", tidySize(c.r), c.raw)
+		for _, j := range joinings() {
+			got, code := j.join(c.r, nothing(3))
+			isMade(t, j.name, got, code, naivePairs(c.r, nothing(3), j.take), c.raw)
+			got, code = j.join(nothing(3), c.r)
+			isMade(t, j.name, got, code, naivePairs(nothing(3), c.r, j.take), c.raw)
+		}
+		got, code := impl.BothRelations(c.r, nothing(3))
+		equal(t, "code", code == impl.OK, c.raw <= impl.MaxRaw)
+		equal(t, "nothing", code != impl.OK || impl.SameRelation(got, nothing(3)), true)
+	}
+}
+
+// withStates is like turning of three tapes, with so many further states in front.
+func withStates(n, further int64) impl.Relation {
+	r := turning(3, n)
+	for i := range further {
+		row := make([]int64, 26)
+		row[0] = r.Start
+		r.Accept = append(r.Accept, true)
+		r.Next = append(r.Next, row)
+		r.Start = n + i
+	}
+	return r
 }
 
 func TestErrorsOfRelationsOfTwo(t *testing.T) {

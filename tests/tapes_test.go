@@ -202,6 +202,16 @@ func TestFixTapeLimits(t *testing.T) {
 		{ring(147), 0, 150},
 		{evenRing(3, 124), 7, impl.MaxRaw},
 		{evenRing(3, 142), 6, impl.MaxRaw + 1},
+		{turning(2, 60), 0, 181},
+		{turning(2, 150), 0, 451},
+		{turning(2, 150), 1, 902},
+		{turning(2, 150), 2, 1353},
+		{turning(2, 111), 2, 1002},
+		{ring(148), 0, 151},
+		{turning(3, 142), 0, 995},
+		{withStates(142, 5), 0, impl.MaxRaw},
+		{withStates(142, 6), 0, impl.MaxRaw + 1},
+		{turning(3, 150), 0, 1051},
 	} {
 		w := strings.Repeat("b", c.letters)
 		equal(t, "states", tidySize(c.r)*(c.letters+1), c.raw)
@@ -210,8 +220,7 @@ func TestFixTapeLimits(t *testing.T) {
 			isMade(t, "FixTape", got, code, naiveFix(c.r, tape, w), c.raw)
 		}
 	}
-	got, code := impl.FixTape(ring(148), 0, "")
-	isLimit(t, "a relation that is not tidied", got, code)
+	equal(t, "with the empty word", made(t)(impl.FixTape(turning(2, 60), 1, "")), made(t)(impl.TidyRelation(turning(1, 60))))
 }
 
 // fork takes two words, the first one not shorter, if its letters up to the end
