@@ -389,9 +389,10 @@ func rightPart(r Relation) Relation {
 // as soon as there are more than most classes, of which there are never fewer
 // later on.
 func classesOf(r Relation, most int) ([]int32, bool) {
+	numbers := map[signature]int32{}
 	var refine func(classes []int32, count int) ([]int32, bool)
 	refine = func(classes []int32, count int) ([]int32, bool) {
-		numbers := map[signature]int32{}
+		clear(numbers)
 		finer := make([]int32, len(classes))
 		for s, row := range r.Next {
 			key := signature{classes[s]}

@@ -57,7 +57,11 @@ func callsOf(r, s impl.Relation, words []string, list []int64, tuples [][]string
 	pack("CountAll", two(count, code))
 	of, code := impl.RelationOf(n, tuples)
 	pack("RelationOf", two(of, code))
-	return append(calls, callsOfChapter2(r, s, list, n, text)...)
+	calls = append(calls, callsOfChapter2(r, s, list, n, text)...)
+	for _, p := range []impl.Presentation{{Domain: r, Relations: []impl.Relation{s}}, {Domain: evenA(), Relations: []impl.Relation{r, s}}} {
+		calls = append(calls, callsOfChapter3(p, words, n, text)...)
+	}
+	return calls
 }
 
 func callsOfChapter2(r, s impl.Relation, list []int64, n int64, text string) []call {
@@ -91,6 +95,52 @@ func callsOfChapter2(r, s impl.Relation, list []int64, n int64, text string) []c
 	add("OrderRelation")(impl.OrderRelation(), impl.OK)
 	add("SuccessorRelation")(impl.SuccessorRelation(), impl.OK)
 	add("AllTuples")(impl.AllTuples(n))
+	return calls
+}
+
+// callsOfChapter3 has formulas that suit the relation 0, and others.
+func callsOfChapter3(p impl.Presentation, words []string, n int64, text string) []call {
+	var calls []call
+	add := func(name string, results ...any) { calls = append(calls, call{name, results}) }
+	add("ValidPresentation", impl.ValidPresentation(p))
+	add("SamePresentation", impl.SamePresentation(p, p))
+	free, code := impl.FreeVariables(text)
+	add("FreeVariables", free, code)
+	nesting, code := impl.NestingOf(text)
+	add("NestingOf", nesting, code)
+	renamed, code := impl.RenameFormula("x=y", text)
+	add("RenameFormula", renamed, code)
+	atom := "R0(" + "yxz"[:min(max(p.Relations[0].Tapes, 0), 3)] + ")"
+	for _, f := range []string{text, atom, "!" + atom, "(" + atom + ">Ex" + atom + ")", "AxEyMz" + atom, "Ey" + atom} {
+		add("ValidFormula", impl.ValidFormula(p, f))
+		calls = append(calls, callsForFormula(p, f, atom, words, n)...)
+	}
+	return calls
+}
+
+// callsForFormula calls all functions that are given a presentation and a formula,
+// but for ValidFormula, which has no code.
+func callsForFormula(p impl.Presentation, f, other string, words []string, n int64) []call {
+	var calls []call
+	add := func(name string, results ...any) { calls = append(calls, call{name, results}) }
+	answers, code := impl.AnswersTo(p, f)
+	add("AnswersTo", answers, code)
+	yes, code := impl.Decide(p, f)
+	add("Decide", yes, code)
+	yes, code = impl.HoldsAt(p, f, words)
+	add("HoldsAt", yes, code)
+	first, code := impl.FirstAnswer(p, f)
+	add("FirstAnswer", first, code)
+	list, code := impl.AnswersUpTo(p, f, n)
+	add("AnswersUpTo", list, code)
+	w, code := impl.WitnessOf(p, f)
+	add("WitnessOf", w, code)
+	yes, code = impl.AreEquivalent(p, f, other)
+	add("AreEquivalent", yes, code)
+	first, code = impl.FirstApart(p, f, other)
+	add("FirstApart", first, code)
+	at, code := impl.IsModelOf(p, []string{f, "x=x"})
+	add("IsModelOf", at, code)
 	return calls
 }
 
@@ -136,6 +186,23 @@ func TestArgumentsAreNotModified(t *testing.T) {
 		if !reflect.DeepEqual(before, after) {
 			t.Fatalf("arguments %v became %v", before, after)
 		}
+	}
+}
+
+func TestPresentationsAreNotModified(t *testing.T) {
+	room := impl.Relation{Tapes: 77}
+	for _, domain := range []impl.Relation{evenA(), everything(1), nothing(1), padded(circle(3))} {
+		one, two := roomyRelation(impl.OrderRelation()), roomyRelation(ring(2))
+		p := impl.Presentation{Domain: roomyRelation(domain), Relations: withRoom([]impl.Relation{one, two}, room, room)}
+		texts := withRoom([]string{"Axx=x", "AxAy(R0(xy)|(R0(yx)|x=y))", "EzR1(zz)"}, "unused", "room")
+		words := withRoom([]string{"b", "aa"}, "unused")
+		seen := func() []any {
+			return []any{everythingIn(p.Domain), everythingIn(one), everythingIn(two), roomOf(p.Relations), roomOf(texts), roomOf(words)}
+		}
+		before := seen()
+		callsOfChapter3(p, words, 3, "(R0(xy)&!EzR1(xz))")
+		impl.IsModelOf(p, texts)
+		equal(t, "arguments", seen(), before)
 	}
 }
 
@@ -227,6 +294,28 @@ func TestResultsOfChapter2ShareNoMemory(t *testing.T) {
 	}
 }
 
+func TestAnswersShareNoMemory(t *testing.T) {
+	for _, domain := range []impl.Relation{evenA(), made(t)(impl.AllTuples(1)), circle(2)} {
+		p := impl.Presentation{Domain: domain, Relations: []impl.Relation{evenA(), made(t)(impl.AllTuples(2))}}
+		kept := impl.Presentation{Domain: copyOf(domain), Relations: []impl.Relation{evenA(), made(t)(impl.AllTuples(2))}}
+		for _, f := range []string{"x=x", "(Exx=x|y=y)", "R0(x)", "R1(xy)", "(Exx=x|x=y)", "MzR1(xy)", "ExExR0(y)", "(x=x&(y=y&z=z))"} {
+			one := made(t)(impl.AnswersTo(p, f))
+			before := copyOf(one)
+			rowsAreApart(t, one)
+			spoil(one)
+			equal(t, "presentation", p, kept)
+			equal(t, "other answers to "+f, made(t)(impl.AnswersTo(p, f)), before)
+		}
+		list, _ := impl.AnswersUpTo(p, "R1(xy)", 1)
+		before, _ := impl.AnswersUpTo(p, "R1(xy)", 1)
+		for i := range list {
+			_ = append(list[i], "x")
+			list[i][0] = "x"
+			equal(t, "the next answers", list[i+1:], before[i+1:])
+		}
+	}
+}
+
 // rowsAreApart writes behind the end of each row, which must not be seen in another one.
 func rowsAreApart(t *testing.T, r impl.Relation) {
 	t.Helper()
@@ -250,7 +339,8 @@ func TestInvalidRelationsAreToldFirst(t *testing.T) {
 			switch c.name {
 			case "Holds", "TidyRelation", "AreEqual", "FirstUnlike", "FirstTuple", "TuplesUpTo", "CountTuples", "IsEmpty", "IsFinite", "CountAll",
 				"OppositeRelation", "BothRelations", "EitherRelation", "WithoutRelation", "IsContained", "AddTape", "MoveTapes", "SomeOn", "AllOn", "ManyOn",
-				"FixTape", "SameOn", "ProductOf", "ComposeRelations", "InverseRelation":
+				"FixTape", "SameOn", "ProductOf", "ComposeRelations", "InverseRelation",
+				"AnswersTo", "Decide", "HoldsAt", "FirstAnswer", "AnswersUpTo", "WitnessOf", "AreEquivalent", "FirstApart", "IsModelOf":
 				equal(t, c.name, c.results[1], int64(impl.ErrInvalid))
 			}
 		}
@@ -269,7 +359,7 @@ func TestInvalidRelationsAreToldFirst(t *testing.T) {
 // Whatever the arguments are, a result with an error is empty.
 func TestResultsWithErrorsAreZero(t *testing.T) {
 	relations := append(someRelations(), wrongRelations()...)
-	texts := []string{"", "relation", "relation 1 1 0\nyes 0 0\n", strings.Repeat("relation 1 1 0\n", 5000)}
+	texts := []string{"", "relation", "relation 1 1 0\nyes 0 0\n", strings.Repeat("relation 1 1 0\n", 5000), "x=x", "Ex!x=x", "(x=y&Mxx=x)"}
 	numbers := []int64{0, 1, 2, 3, 4, -1, impl.MaxLength, impl.MaxLength + 1, math.MaxInt64, math.MinInt64}
 	for i, r := range relations {
 		n := numbers[i%len(numbers)]
