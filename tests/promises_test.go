@@ -61,7 +61,8 @@ func callsOf(r, s impl.Relation, words []string, list []int64, tuples [][]string
 	for _, p := range []impl.Presentation{{Domain: r, Relations: []impl.Relation{s}}, {Domain: evenA(), Relations: []impl.Relation{r, s}}} {
 		calls = append(calls, callsOfChapter3(p, words, n, text)...)
 	}
-	return calls
+	calls = append(calls, callsOfChapter4(r, s, s, []string{text, "b"}, n)...)
+	return append(calls, callsOfChapter4(evenA(), r, s, slices.Concat(words, []string{"", "b"}), n)...)
 }
 
 func callsOfChapter2(r, s impl.Relation, list []int64, n int64, text string) []call {
@@ -142,6 +143,45 @@ func callsForFormula(p impl.Presentation, f, other string, words []string, n int
 	at, code := impl.IsModelOf(p, []string{f, "x=x"})
 	add("IsModelOf", at, code)
 	return calls
+}
+
+// callsOfChapter4 is given two words at least.
+func callsOfChapter4(d, r, s impl.Relation, words []string, n int64) []call {
+	var calls []call
+	add := func(name string, results ...any) { calls = append(calls, call{name, results}) }
+	add("PropertyText", impl.PropertyText(n))
+	for _, kind := range append([]int64{n}, 1, 2, 3, 6, 8, 10) {
+		has, code := impl.HasProperty(d, r, kind)
+		add("HasProperty", has, code)
+		first, code := impl.FirstAgainst(d, r, kind)
+		add("FirstAgainst", first, code)
+	}
+	yes, code := impl.IsEquivalence(d, r)
+	add("IsEquivalence", yes, code)
+	yes, code = impl.IsPartialOrder(d, r)
+	add("IsPartialOrder", yes, code)
+	yes, code = impl.IsLinearOrder(d, r)
+	add("IsLinearOrder", yes, code)
+	yes, code = impl.IsDenseOrder(d, r)
+	add("IsDenseOrder", yes, code)
+	yes, code = impl.IsLocallyFinite(d, r)
+	add("IsLocallyFinite", yes, code)
+	made, code := impl.CoverOf(d, r)
+	add("CoverOf", made, code)
+	made, code = impl.MinimalOf(d, r)
+	add("MinimalOf", made, code)
+	made, code = impl.Representatives(d, r)
+	add("Representatives", made, code)
+	made, code = impl.KernelOf(d, r)
+	add("KernelOf", made, code)
+	count, code := impl.CountClasses(d, r)
+	add("CountClasses", count, code)
+	for _, pair := range [][2]impl.Relation{{r, s}, {everything(2), r}} {
+		firsts, links, code := impl.QuotientBy(d, pair[0], pair[1])
+		add("QuotientBy", firsts, code)
+		add("QuotientBy", links, code)
+	}
+	return append(calls, callsWithWords(d, r, words[0], words[1], n)...)
 }
 
 // withRoom makes a list whose unused capacity can be looked at.
@@ -316,6 +356,34 @@ func TestAnswersShareNoMemory(t *testing.T) {
 	}
 }
 
+func TestResultsOfChapter4ShareNoMemory(t *testing.T) {
+	for _, domain := range []impl.Relation{made(t)(impl.AllTuples(1)), listed(t, []string{"", "a", "b"}), nothing(1)} {
+		for _, r := range []impl.Relation{impl.EqualWords(), made(t)(impl.AllTuples(2)), nothing(2), impl.SuccessorRelation()} {
+			keptDomain, kept := copyOf(domain), copyOf(r)
+			for _, calls := range [][2][]call{
+				{callsOfChapter4(domain, r, r, []string{"", "b"}, 0), callsOfChapter4(domain, r, r, []string{"", "b"}, 0)},
+				{callsOfChapter4(domain, r, r, []string{"b", ""}, 1), callsOfChapter4(domain, r, r, []string{"b", ""}, 1)},
+			} {
+				isUnshared(t, calls[0], calls[1])
+				equal(t, "arguments", []impl.Relation{domain, r}, []impl.Relation{keptDomain, kept})
+			}
+		}
+	}
+}
+
+// isUnshared overwrites one result after the other, and looks whether those that
+// are left are the same as in further calls.
+func isUnshared(t *testing.T, first, second []call) {
+	t.Helper()
+	for i, c := range first {
+		if r, ok := c.results[0].(impl.Relation); ok && len(r.Next) > 0 {
+			rowsAreApart(t, r)
+			spoil(r)
+			equal(t, c.name+": another result", first[i+1:], second[i+1:])
+		}
+	}
+}
+
 // rowsAreApart writes behind the end of each row, which must not be seen in another one.
 func rowsAreApart(t *testing.T, r impl.Relation) {
 	t.Helper()
@@ -340,7 +408,9 @@ func TestInvalidRelationsAreToldFirst(t *testing.T) {
 			case "Holds", "TidyRelation", "AreEqual", "FirstUnlike", "FirstTuple", "TuplesUpTo", "CountTuples", "IsEmpty", "IsFinite", "CountAll",
 				"OppositeRelation", "BothRelations", "EitherRelation", "WithoutRelation", "IsContained", "AddTape", "MoveTapes", "SomeOn", "AllOn", "ManyOn",
 				"FixTape", "SameOn", "ProductOf", "ComposeRelations", "InverseRelation",
-				"AnswersTo", "Decide", "HoldsAt", "FirstAnswer", "AnswersUpTo", "WitnessOf", "AreEquivalent", "FirstApart", "IsModelOf":
+				"AnswersTo", "Decide", "HoldsAt", "FirstAnswer", "AnswersUpTo", "WitnessOf", "AreEquivalent", "FirstApart", "IsModelOf",
+				"HasProperty", "FirstAgainst", "IsEquivalence", "IsPartialOrder", "IsLinearOrder", "IsDenseOrder", "CoverOf", "MinimalOf", "ClassOf",
+				"RepresentativeOf", "Representatives", "CountClasses", "KernelOf", "QuotientBy", "DegreeOf", "IsLocallyFinite", "BehindSteps", "DistanceOf":
 				equal(t, c.name, c.results[1], int64(impl.ErrInvalid))
 			}
 		}
