@@ -61,6 +61,7 @@ func callsOf(r, s impl.Relation, words []string, list []int64, tuples [][]string
 	for _, p := range []impl.Presentation{{Domain: r, Relations: []impl.Relation{s}}, {Domain: evenA(), Relations: []impl.Relation{r, s}}} {
 		calls = append(calls, callsOfChapter3(p, words, n, text)...)
 	}
+	calls = append(calls, callsOfChapter5(r, s, list, n, text)...)
 	calls = append(calls, callsOfChapter4(r, s, s, []string{text, "b"}, n)...)
 	return append(calls, callsOfChapter4(evenA(), r, s, slices.Concat(words, []string{"", "b"}), n)...)
 }
@@ -182,6 +183,36 @@ func callsOfChapter4(d, r, s impl.Relation, words []string, n int64) []call {
 		add("QuotientBy", links, code)
 	}
 	return append(calls, callsWithWords(d, r, words[0], words[1], n)...)
+}
+
+func callsOfChapter5(r, s impl.Relation, list []int64, n int64, text string) []call {
+	var calls []call
+	add := func(name string, results ...any) { calls = append(calls, call{name, results}) }
+	word, code := impl.NumberWord(n)
+	add("NumberWord", word, code)
+	number, code := impl.WordNumber(text)
+	add("WordNumber", number, code)
+	for _, kind := range []int64{n, impl.NkEqual, impl.NkAtMost} {
+		line, code := impl.LinearRelation(kind, list, n)
+		add("LinearRelation", line, code)
+	}
+	rests, code := impl.RestSet(n, n-1)
+	add("RestSet", rests, code)
+	set, code := impl.NumberSet(list)
+	add("NumberSet", set, code)
+	for _, r := range append(impl.Arithmetic().Relations, impl.NumberDomain(), impl.AddRelation(), impl.LessNumbers(), impl.Arithmetic().Domain) {
+		add("a known relation of numbers", r, int64(impl.OK))
+	}
+	for _, f := range []string{text, "R1(xy)", "EzR0(xyz)", "AxEyR0(xxy)"} {
+		holds, code := impl.HoldsFor(f, list)
+		add("HoldsFor", holds, code)
+		solutions, code := impl.SolutionsBelow(f, n)
+		add("SolutionsBelow", solutions, code)
+	}
+	is, code := impl.IsNumberSet(r)
+	add("IsNumberSet", is, code)
+	calls = append(calls, callsWithSets(r, s, n)...)
+	return append(calls, callsWithSets(r, r, n+1)...)
 }
 
 // withRoom makes a list whose unused capacity can be looked at.
@@ -371,6 +402,33 @@ func TestResultsOfChapter4ShareNoMemory(t *testing.T) {
 	}
 }
 
+func TestResultsOfChapter5ShareNoMemory(t *testing.T) {
+	for _, r := range []impl.Relation{impl.NumberDomain(), nothing(1), numberSet(t, 1, 4), rests(t, 3, 1), powersOfTwo()} {
+		kept := copyOf(r)
+		for _, n := range []int64{0, 1, 2} {
+			made := func() []call { return callsOfChapter5(r, r, []int64{1, -1}, n, "R0(xyz)") }
+			isUnshared(t, made(), made())
+			equal(t, "argument", r, kept)
+		}
+	}
+}
+
+func TestSetsOfNumbersAreNotModified(t *testing.T) {
+	for i, r := range someSets(t) {
+		if i%3 != 0 {
+			continue
+		}
+		one, two := roomyRelation(r), roomyRelation(rests(t, 3, 1))
+		list := withRoom([]int64{1, 4}, 5, 6)
+		seen := func() []any { return []any{everythingIn(one), everythingIn(two), roomOf(list)} }
+		before := seen()
+		callsOfChapter5(one, two, list, 2, "R1(xy)")
+		equal(t, "arguments", seen(), before)
+		first, second := callsOfChapter5(one, two, list, 3, "R1(xy)"), callsOfChapter5(copyOf(r), two, []int64{1, 4}, 3, "R1(xy)")
+		equal(t, "results for equal arguments", first, second)
+	}
+}
+
 // isUnshared overwrites one result after the other, and looks whether those that
 // are left are the same as in further calls.
 func isUnshared(t *testing.T, first, second []call) {
@@ -410,7 +468,8 @@ func TestInvalidRelationsAreToldFirst(t *testing.T) {
 				"FixTape", "SameOn", "ProductOf", "ComposeRelations", "InverseRelation",
 				"AnswersTo", "Decide", "HoldsAt", "FirstAnswer", "AnswersUpTo", "WitnessOf", "AreEquivalent", "FirstApart", "IsModelOf",
 				"HasProperty", "FirstAgainst", "IsEquivalence", "IsPartialOrder", "IsLinearOrder", "IsDenseOrder", "CoverOf", "MinimalOf", "ClassOf",
-				"RepresentativeOf", "Representatives", "CountClasses", "KernelOf", "QuotientBy", "DegreeOf", "IsLocallyFinite", "BehindSteps", "DistanceOf":
+				"RepresentativeOf", "Representatives", "CountClasses", "KernelOf", "QuotientBy", "DegreeOf", "IsLocallyFinite", "BehindSteps", "DistanceOf",
+				"IsNumberSet", "LeastNumber", "GreatestNumber", "ShiftSet", "SumOfSets", "CountBelow", "IsPeriodic", "PeriodOf":
 				equal(t, c.name, c.results[1], int64(impl.ErrInvalid))
 			}
 		}
