@@ -61,6 +61,8 @@ func callsOf(r, s impl.Relation, words []string, list []int64, tuples [][]string
 	for _, p := range []impl.Presentation{{Domain: r, Relations: []impl.Relation{s}}, {Domain: evenA(), Relations: []impl.Relation{r, s}}} {
 		calls = append(calls, callsOfChapter3(p, words, n, text)...)
 	}
+	turned, code := impl.TransducerOf(r)
+	add("TransducerOf", turned, code)
 	calls = append(calls, callsOfChapter5(r, s, list, n, text)...)
 	calls = append(calls, callsOfChapter4(r, s, s, []string{text, "b"}, n)...)
 	return append(calls, callsOfChapter4(evenA(), r, s, slices.Concat(words, []string{"", "b"}), n)...)
@@ -469,7 +471,7 @@ func TestInvalidRelationsAreToldFirst(t *testing.T) {
 				"AnswersTo", "Decide", "HoldsAt", "FirstAnswer", "AnswersUpTo", "WitnessOf", "AreEquivalent", "FirstApart", "IsModelOf",
 				"HasProperty", "FirstAgainst", "IsEquivalence", "IsPartialOrder", "IsLinearOrder", "IsDenseOrder", "CoverOf", "MinimalOf", "ClassOf",
 				"RepresentativeOf", "Representatives", "CountClasses", "KernelOf", "QuotientBy", "DegreeOf", "IsLocallyFinite", "BehindSteps", "DistanceOf",
-				"IsNumberSet", "LeastNumber", "GreatestNumber", "ShiftSet", "SumOfSets", "CountBelow", "IsPeriodic", "PeriodOf":
+				"IsNumberSet", "LeastNumber", "GreatestNumber", "ShiftSet", "SumOfSets", "CountBelow", "IsPeriodic", "PeriodOf", "TransducerOf":
 				equal(t, c.name, c.results[1], int64(impl.ErrInvalid))
 			}
 		}
