@@ -63,6 +63,8 @@ func callsOf(r, s impl.Relation, words []string, list []int64, tuples [][]string
 	}
 	turned, code := impl.TransducerOf(r)
 	add("TransducerOf", turned, code)
+	calls = append(calls, callsOfChapter7(r, s, evenA(), text, n)...)
+	calls = append(calls, callsOfChapter7(impl.SuccessorRelation(), s, r, "ab", n)...)
 	calls = append(calls, callsOfChapter5(r, s, list, n, text)...)
 	calls = append(calls, callsOfChapter4(r, s, s, []string{text, "b"}, n)...)
 	return append(calls, callsOfChapter4(evenA(), r, s, slices.Concat(words, []string{"", "b"}), n)...)
