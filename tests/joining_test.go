@@ -8,22 +8,28 @@ import (
 
 // Promise 20: functions are joined and restricted as told.
 
+// isToldPairs looks at what a function has returned, and at short words, for which it
+// is told whether they are taken. It returns the code.
+func isToldPairs(t *testing.T, name string, got impl.Relation, code int64, w *chooser, want impl.Relation, taken func(words []string) bool) int64 {
+	t.Helper()
+	isToldChoice(t, name, got, code, w, want)
+	for _, words := range allTuples(2, 2) {
+		if code == impl.OK && takes(got, words) != taken(words) {
+			t.Fatalf("%s: %v and %q", name, got, words)
+		}
+	}
+	return code
+}
+
 // joinsAsTold looks at one function joined with another one.
 func joinsAsTold(t *testing.T, f, g impl.Relation) int64 {
 	t.Helper()
 	w := &chooser{}
 	want := w.joined(f, g)
 	got, code := impl.JoinFunctions(f, g)
-	isToldChoice(t, "JoinFunctions", got, code, w, want)
-	if code != impl.OK {
-		return code
-	}
-	for _, words := range allTuples(2, 2) {
-		if takes(got, words) != (takes(f, words) || takes(g, words) && !hasPartners(f, words[0])) {
-			t.Fatalf("JoinFunctions of %v and %v: %q", f, g, words)
-		}
-	}
-	return code
+	return isToldPairs(t, "JoinFunctions", got, code, w, want, func(words []string) bool {
+		return takes(f, words) || takes(g, words) && !hasPartners(f, words[0])
+	})
 }
 
 func restrictsAsTold(t *testing.T, f, domain impl.Relation) int64 {
@@ -31,16 +37,9 @@ func restrictsAsTold(t *testing.T, f, domain impl.Relation) int64 {
 	w := &chooser{}
 	want := w.restricted(f, domain)
 	got, code := impl.RestrictFunction(f, domain)
-	isToldChoice(t, "RestrictFunction", got, code, w, want)
-	if code != impl.OK {
-		return code
-	}
-	for _, words := range allTuples(2, 2) {
-		if takes(got, words) != (takes(f, words) && takes(domain, words[:1])) {
-			t.Fatalf("RestrictFunction of %v and %v: %q", f, domain, words)
-		}
-	}
-	return code
+	return isToldPairs(t, "RestrictFunction", got, code, w, want, func(words []string) bool {
+		return takes(f, words) && takes(domain, words[:1])
+	})
 }
 
 func TestJoinFunctions(t *testing.T) {

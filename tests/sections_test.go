@@ -246,7 +246,7 @@ func counting(t *testing.T, count, back int64) impl.Relation {
 // A word that comes again is found within just as many steps as are allowed.
 func TestLongCycles(t *testing.T) {
 	words := wordsUpTo(9)
-	for _, c := range []struct{ count, back int64 }{{126, 0}, {126, 1}, {126, 63}, {126, 125}, {126, 126}, {254, 254}, {30, 7}, {20, 0}, {20, 20}, {1, 1}} {
+	for _, c := range []struct{ count, back int64 }{{999, 0}, {999, 1}, {999, 998}, {999, 999}, {998, 500}, {126, 63}, {30, 7}, {20, 0}, {20, 20}, {1, 1}} {
 		f := counting(t, c.count, c.back)
 		most := c.count + 1
 		isCycle(t, f, "", most, c.back, most-c.back, impl.OK)
@@ -258,6 +258,10 @@ func TestLongCycles(t *testing.T) {
 		around := (impl.MaxApplied - most) % (most - c.back)
 		isApplied(t, f, "", impl.MaxApplied, words[c.back+around], impl.OK)
 	}
+	isCycle(t, counting(t, 1000, 0), "", impl.MaxApplied, 0, 0, impl.ErrBudget)
+	isCycle(t, counting(t, 1000, 0), "a", impl.MaxApplied, 0, 0, impl.ErrBudget)
+	isCycle(t, counting(t, 1000, 1), "a", impl.MaxApplied, 0, 1000, impl.OK)
+	isCycle(t, counting(t, 1000, 1000), words[1000], 1, 0, 1, impl.OK)
 	for n := int64(1); n <= 9; n++ {
 		u, all := words[1<<n], int64(1)<<n
 		isCycle(t, nextDigits(), u, all, 0, all, impl.OK)
@@ -342,12 +346,12 @@ func backAndForth() impl.Relation {
 	})
 }
 
-// FixTape is not used for steps, so long words of large relations have partners.
-func TestStepsWithoutFixTape(t *testing.T) {
+// No automata are made for steps, not even those of FixTape and of ChooseFirst, so there
+// are no limits but that of words.
+func TestStepsOfLargeFunctions(t *testing.T) {
 	next := made(t)(impl.RestrictFunction(impl.SuccessorRelation(), firstWords(511)))
 	f := made(t)(impl.JoinFunctions(next, impl.EqualWords()))
 	u := strings.Repeat("ab", impl.MaxWord/2)
-	equal(t, "states", len(f.Next)*(len(u)+1) > impl.MaxRaw, true)
 	equal(t, "PartnersOf", codeOf(impl.PartnersOf(f, u)), int64(impl.ErrLimit))
 	isFirstPartner(t, f, u, "", impl.ErrLimit)
 	isApplied(t, f, u, 1, u, impl.OK)
@@ -356,29 +360,38 @@ func TestStepsWithoutFixTape(t *testing.T) {
 	isApplied(t, f, "", impl.MaxApplied, "aaaaaaaaa", impl.OK)
 	isCycle(t, f, "", 512, 511, 1, impl.OK)
 	isCycle(t, f, "", 511, 0, 0, impl.ErrBudget)
-}
-
-// If too many states are needed to see that a relation is a function, this is the last
-// error; that it is none is the first one.
-func TestStepsOfLargeRelations(t *testing.T) {
-	f := naiveScribeRelation(longScribe(149))
-	_, code := impl.IsFunction(f)
-	equal(t, "IsFunction", code, int64(impl.ErrLimit))
-	isApplied(t, f, "", 0, "", impl.ErrLimit)
-	isApplied(t, f, "", 1, "", impl.ErrLimit)
-	isApplied(t, f, "a", 1, "", impl.ErrNotFound)
-	isCycle(t, f, "", 1, 0, 0, impl.ErrLimit)
-	isCycle(t, f, "a", 1, 0, 0, impl.ErrNotFound)
-	isApplied(t, counting(t, 999, 0), "", impl.MaxApplied, "", impl.ErrLimit)
-	isCycle(t, counting(t, 999, 0), "", impl.MaxApplied, 0, 0, impl.ErrLimit)
-	isCycle(t, counting(t, 999, 0), "", impl.MaxApplied-1, 0, 0, impl.ErrBudget)
-	long := oneMore(twice(98), "", "a")
-	isCycle(t, long, "", 1, 0, 0, impl.ErrBudget)
-	isCycle(t, long, "", 2, 0, 0, impl.ErrNotFound)
-	isApplied(t, long, "", 1, "", impl.ErrLimit)
-	for _, r := range []impl.Relation{turning(2, 60), turning(2, 150), ring(148), evenRing(2, 50)} {
-		isApplied(t, r, "", 1, "", impl.ErrState)
-		isCycle(t, r, "a", 1, 0, 0, impl.ErrState)
+	f = naiveScribeRelation(longScribe(39))
+	u = strings.Repeat("a", 39)
+	equal(t, "ChooseFirst", codeOf(impl.ChooseFirst(f)), int64(impl.ErrLimit))
+	isApplied(t, f, u, 1, "b"+u[1:], impl.OK)
+	isApplied(t, f, u+"a", 1, "", impl.ErrNotFound)
+	isCycle(t, f, u, 2, 1, 1, impl.OK)
+	isCycle(t, f, u, 1, 0, 0, impl.ErrBudget)
+	f = twice(148)
+	equal(t, "ChooseFirst", codeOf(impl.ChooseFirst(f)), int64(impl.ErrLimit))
+	isApplied(t, f, "", 0, "", impl.OK)
+	isApplied(t, f, "", 1, "", impl.ErrNotFound)
+	f = equalIn(lasso(1, 147))
+	isApplied(t, f, "b", impl.MaxApplied, "b", impl.OK)
+	isCycle(t, f, "b", 1, 0, 1, impl.OK)
+	isCycle(t, f, "ba", 1, 0, 0, impl.ErrNotFound)
+	long := strings.Repeat("a", 60)
+	for _, c := range []struct {
+		r    impl.Relation
+		code int64
+	}{
+		{turning(2, 60), impl.ErrState},
+		{turning(2, 150), impl.ErrState},
+		{ring(148), impl.ErrState},
+		{evenRing(2, 50), impl.ErrState},
+		{oneMore(twice(60), long, "b"), impl.ErrState},
+		{oneMore(twice(60), "b", long), impl.OK},
+		{oneMore(twice(60), long[1:], long), impl.OK},
+		{oneMore(twice(60), long, long[1:]), impl.ErrState},
+	} {
+		equal(t, "ChooseFirst", codeOf(impl.ChooseFirst(c.r)), int64(impl.ErrLimit))
+		isApplied(t, c.r, "", 0, "", c.code)
+		isApplied(t, c.r, "b", 0, map[int64]string{impl.OK: "b"}[c.code], c.code)
 	}
 }
 
