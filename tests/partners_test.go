@@ -234,30 +234,39 @@ func TestChoicesAsTold(t *testing.T) {
 }
 
 // The order of words with a tape added in front has 10 tidy states, so there may be
-// 100 of a relation with one behind.
+// 100 of a relation with one behind. Then there may be MaxRaw pairs of a state of the
+// relation and one of what comes behind a partner.
 func TestLimitsOfChoosing(t *testing.T) {
 	equal(t, "states of the order", tidySize(naiveAdd(naiveOrder(), 0)), 10)
 	for _, c := range []struct {
-		r      impl.Relation
-		states int
-		code   int64
+		r             impl.Relation
+		states, pairs int
+		code          int64
 	}{
-		{evenRing(2, 49), 100, impl.OK},
-		{evenRing(2, 50), 102, impl.ErrLimit},
-		{padded(evenRing(2, 49)), 100, impl.OK},
-		{twice(97), 100, impl.OK},
-		{twice(98), 101, impl.ErrLimit},
+		{pairsWith(circle(49)), 100, 150, impl.OK},
+		{padded(pairsWith(circle(49))), 100, 150, impl.OK},
+		{ring(47), 100, 250, impl.OK},
+		{lots(49), 101, 0, impl.ErrLimit},
+		{pairsWith(circle(50)), 102, 0, impl.ErrLimit},
+		{ring(48), 102, 0, impl.ErrLimit},
+		{equalIn(lasso(8, 11)), 39, impl.MaxRaw, impl.OK},
+		{pairsWith(lasso(17, 32)), 99, impl.MaxRaw, impl.OK},
+		{equalIn(lasso(2, 16)), 37, impl.MaxRaw + 7, impl.ErrLimit},
+		{pairsWith(lasso(18, 29)), 95, impl.MaxRaw + 8, impl.ErrLimit},
+		{twice(21), 44, impl.MaxRaw + 12, impl.ErrLimit},
 	} {
 		equal(t, "states with a tape added", tidySize(naiveAdd(c.r, 2)), c.states)
 		w := &chooser{}
+		later := w.composed(c.r, naiveOrder())
+		if c.pairs > 0 {
+			equal(t, "pairs", tidySize(c.r)*tidySize(later), c.pairs)
+		}
 		want := w.chosen(c.r)
 		got, code := impl.ChooseFirst(c.r)
 		isToldChoice(t, "ChooseFirst", got, code, w, want)
 		equal(t, "ChooseFirst", code, c.code)
-		_, code = impl.IsFunction(c.r)
-		equal(t, "IsFunction", code, c.code)
-		_, code = impl.IsOneToOne(c.r)
-		equal(t, "IsOneToOne", code, c.code)
+		yes, code := impl.IsFunction(c.r)
+		equal(t, "IsFunction", []any{yes, code}, []any{c.code == impl.OK && !someHasTwo(c.r), c.code})
 	}
 }
 
